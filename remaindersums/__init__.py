@@ -1,0 +1,1 @@
+"""Sets of remainders added; the functions stand in remaindersums.sets."""
