@@ -44,3 +44,24 @@ def often(n, a, k):
     for turn in range(k):
         total = added(n, total, a)
     return told(n, total)
+
+
+def two(n, a):
+    if is_wrong(n, a):
+        return [REFUSAL]
+    total = 0
+    for x in range(n):
+        if ((a >> x) & 1) == 1:
+            # x is left out of what is moved, so that x + x comes only where two different ones make it.
+            total = total | moved(n, a ^ (1 << x), x)
+    return told(n, total)
+
+
+def still(n, a):
+    if is_wrong(n, a):
+        return [REFUSAL]
+    unmoving = 0
+    for h in range(n):
+        if moved(n, a, h) == a:
+            unmoving = unmoving | (1 << h)
+    return told(n, unmoving)

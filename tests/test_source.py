@@ -6,7 +6,7 @@ import pathlib
 import unittest
 
 import remaindersums
-from remaindersums.sets import often, sums
+from remaindersums.sets import often, still, sums, two
 
 FOLDER = pathlib.Path(remaindersums.__file__).parent
 FILES = sorted(FOLDER.rglob("*.py"))
@@ -48,6 +48,10 @@ class Source(unittest.TestCase):
             sums(0, 0, 0)
             often(7, 5, 3)
             often(7, 5, -1)
+            two(7, 5)
+            two(0, 0)
+            still(7, 5)
+            still(0, 0)
         self.assertEqual((out.getvalue(), err.getvalue()), ("", ""))
 
 

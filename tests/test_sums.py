@@ -1,17 +1,12 @@
 import unittest
 
-from plain import FULL, WRONG_N, answer_of, check_form, check_nothing_kept, members, wrong_sets
+from plain import FULL, WRONG_N, answer_of, check_form, check_nothing_kept, members, spread_masks, wrong_sets
 from remaindersums.sets import often, sums
 
 
 def plain_sums(n, a, b):
     """Each of the one added to each of the other."""
     return answer_of({(x + y) % n for x in members(a) for y in members(b)})
-
-
-def spread_masks(n, how_many):
-    """Masks of n bits that look mixed, the same ones on every run."""
-    return [(0x9E3779B97F4A7C15 * (i + 1) ^ (i * i << 29)) % (1 << n) for i in range(how_many)]
 
 
 class Ordinary(unittest.TestCase):
