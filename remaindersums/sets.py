@@ -2,7 +2,9 @@
 
 LARGEST_N = 64
 LARGEST_K = 1000
+LARGEST_FREE_N = 24
 REFUSAL = -2
+NONE_FOUND = -5
 
 
 def is_wrong(n, a):
@@ -65,3 +67,51 @@ def still(n, a):
         if moved(n, a, h) == a:
             unmoving = unmoving | (1 << h)
     return told(n, unmoving)
+
+
+def joined(n, a, d):
+    """All of a that steps of d, forward or back, reach from its least one without leaving a."""
+    reached = a ^ (a & (a - 1))
+    before = 0
+    while reached != before:
+        before = reached
+        reached = reached | ((moved(n, reached, d) | moved(n, reached, n - d)) & a)
+    return reached
+
+
+def step(n, a):
+    if is_wrong(n, a):
+        return [REFUSAL]
+    # A set of fewer than two would be joined by any d.
+    if (a & (a - 1)) == 0:
+        return [NONE_FOUND]
+    for d in range(1, n):
+        # Steps of d go through the remainders in rings, so what they join is one row or one whole ring.
+        if joined(n, a, d) == a:
+            return [d]
+    return [NONE_FOUND]
+
+
+def is_free(n, a):
+    return (added(n, a, a) & a) == 0
+
+
+def all_free(n):
+    """All sets none of whose members is the sum of two of them, the lesser mask first."""
+    # Whatever is left of such a set is one too, so each is found by adding its largest member last.
+    found = [0]
+    for x in range(n):
+        found = found + [a | (1 << x) for a in found if is_free(n, a | (1 << x))]
+    return found
+
+
+def free(n):
+    if n < 1 or n > LARGEST_FREE_N:
+        return [REFUSAL]
+    largest = [0, 0]
+    for a in all_free(n):
+        candidate = told(n, a)
+        # Of equally many the one met first stays: it has the least mask.
+        if candidate[0] > largest[0]:
+            largest = candidate
+    return largest

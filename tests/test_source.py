@@ -6,7 +6,7 @@ import pathlib
 import unittest
 
 import remaindersums
-from remaindersums.sets import often, still, sums, two
+from remaindersums.sets import free, often, step, still, sums, two
 
 FOLDER = pathlib.Path(remaindersums.__file__).parent
 FILES = sorted(FOLDER.rglob("*.py"))
@@ -52,6 +52,11 @@ class Source(unittest.TestCase):
             two(0, 0)
             still(7, 5)
             still(0, 0)
+            step(7, 5)
+            step(7, 1)
+            step(0, 0)
+            free(7)
+            free(25)
         self.assertEqual((out.getvalue(), err.getvalue()), ("", ""))
 
 
