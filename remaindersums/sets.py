@@ -1,8 +1,12 @@
-"""Sets of remainders modulo n, each one a mask: bit x stands for the remainder x."""
+"""Sets of remainders modulo n, each one a mask: bit x stands for the remainder x.
+
+Some numbers of a row are a mask too: bit p stands for the number at place p, the first place being 0.
+"""
 
 LARGEST_N = 64
 LARGEST_K = 1000
 LARGEST_FREE_N = 24
+LARGEST_M = 24
 REFUSAL = -2
 NONE_FOUND = -5
 
@@ -115,3 +119,36 @@ def free(n):
         if candidate[0] > largest[0]:
             largest = candidate
     return largest
+
+
+def is_wrong_row(n, row):
+    return n < 1 or n > LARGEST_N or len(row) < 1 or len(row) > LARGEST_M
+
+
+def least_masks(n, row):
+    """The least mask for each (how many places, remainder of their numbers' sum) that the row has."""
+    least = {(0, 0): 0}
+    for place, number in enumerate(row):
+        for key in list(least):
+            # A mask with this place is greater than every one before it, so what is there already stays.
+            least.setdefault((key[0] + 1, (key[1] + number) % n), least[key] | (1 << place))
+    return least
+
+
+def some(n, row):
+    if is_wrong_row(n, row):
+        return [REFUSAL]
+    least = least_masks(n, row)
+    masks = [least[key] for key in least if key[0] > 0 and key[1] == 0]
+    if masks == []:
+        return [NONE_FOUND]
+    return told(len(row), min(masks))
+
+
+def just(n, row):
+    if is_wrong_row(n, row):
+        return [REFUSAL]
+    least = least_masks(n, row)
+    if (n, 0) not in least:
+        return [NONE_FOUND]
+    return told(len(row), least[(n, 0)])

@@ -6,7 +6,7 @@ import pathlib
 import unittest
 
 import remaindersums
-from remaindersums.sets import free, often, step, still, sums, two
+from remaindersums.sets import free, just, often, some, step, still, sums, two
 
 FOLDER = pathlib.Path(remaindersums.__file__).parent
 FILES = sorted(FOLDER.rglob("*.py"))
@@ -57,6 +57,12 @@ class Source(unittest.TestCase):
             step(0, 0)
             free(7)
             free(25)
+            some(7, [1, 6])
+            some(7, [1])
+            some(7, [])
+            just(2, [1, 1])
+            just(2, [1, 2])
+            just(2, [])
         self.assertEqual((out.getvalue(), err.getvalue()), ("", ""))
 
 
